@@ -109,9 +109,9 @@ func wantNumber(t *testing.T, x api.Expr, v api.Vars, n int64) {
 
 func wantTruth(t *testing.T, x api.Expr, v api.Vars, is bool) {
 	t.Helper()
-	w := answers{noNum: 7, truth: is}
+	w := answers{value: api.Value{Bool: true}, noNum: 7, truth: is} // a no is a truth, too
 	if is {
-		w.value = api.Value{Bool: true, N: 1}
+		w.value.N = 1
 	}
 	want(t, x, v, w)
 }
@@ -143,7 +143,39 @@ func TestExample(t *testing.T) {
 	textError(t, "a / (b - 1)", v, api.ErrDiv)
 }
 
-// 10.1, and 10.2's kinds one by one
+// 10.1
+
+// A no's value is a truth, whichever kind of tree comes to it, and never the number 0's; a yes's is never the number 1's.
+func TestValues(t *testing.T) {
+	v := given("a m", 7, 0)
+	isYes, isNo := api.Value{Bool: true, N: 1}, api.Value{Bool: true, N: 0}
+	for s, w := range map[string]api.Value{
+		"no": isNo, "yes": isYes, "!yes": isNo, "!no": isYes, "!!no": isNo, "!(m = 0)": isNo, "!(a < m)": isYes,
+		"m = 1": isNo, "m = 0": isYes, "1 = 2": isNo, "yes = no": isNo, "no = yes": isNo, "no = no": isYes, "(m = 1) = no": isYes, "(a < m) = yes": isNo, "!yes = (a < m)": isYes,
+		"a < m": isNo, "m < m": isNo, "m < a": isYes, "1 < 0": isNo,
+		"no & yes": isNo, "yes & no": isNo, "no & no": isNo, "yes & yes": isYes, "no & 1 / m = 1": isNo, "a < m & x = 1": isNo, "yes & a < m": isNo, "no & no & yes": isNo,
+		"no | no": isNo, "no | yes": isYes, "yes | no": isYes, "yes | 1 / m = 1": isYes, "a < m | m = 1": isNo, "no | !yes": isNo, "m = 0 | x = 1": isYes,
+		"0": {N: 0}, "1": {N: 1}, "m": {N: 0}, "a": {N: 7}, "-m": {N: 0}, "m + m": {N: 0}, "a - 7": {N: 0}, "a * m": {N: 0}, "m / a": {N: 0}, "a - 6": {N: 1}, "a / 7": {N: 1},
+	} {
+		if is, err := Of(tree(t, s), v); is != w || err != api.OK {
+			t.Errorf("Of(%s) = %+v, %d, want %+v", s, is, err, w)
+		}
+	}
+	for kind, w := range map[int]api.Value{yes: isYes, no: isNo} {
+		for _, v := range []api.Vars{{}, v, given("m", 0), given("m", 1)} {
+			if is, err := Of(of(kind), v); is != w || err != api.OK {
+				t.Errorf("Of(kind %d) with %v = %+v, %d, want %+v", kind, v, is, err, w)
+			}
+		}
+	}
+	for _, s := range []string{"x", "x = 1", "!(x = 1)", "1 / m", "1 / m < 0", "yes & x < 0", "no | x < 0", "no & yes | x < 0"} { // with an error there is no value of either type
+		if is, err := Of(tree(t, s), v); is != (api.Value{}) || err == api.OK {
+			t.Errorf("Of(%s) = %+v, %d", s, is, err)
+		}
+	}
+}
+
+// 10.2's kinds one by one
 
 func TestLeaves(t *testing.T) {
 	none := api.Vars{}
