@@ -206,6 +206,11 @@ func TestTickAtTheGreatestTerm(t *testing.T) {
 	wantTick(t, r, 0, asked(r, 10), sent...)
 	other := with(follows(), func(r *api.Raft) { r.Id, r.Lead = 1, 0 })
 	wantReceive(t, other, sent[0], other)
+	// One alone has nobody to ask: it leads in that term.
+	r, _ = Restart(1, 1, most, 1, log(0, 0, most), nil)
+	r.Clock = 10
+	wantTick(t, r, 0, api.Raft{Id: 1, N: 1, Term: most + 1, Vote: 1, Role: api.Leader, Lead: 1, Log: behind(r.Log, entry(most+1, "")),
+		Commit: 2, Next: []int{2}, Match: []int{2}, Wait: 10})
 }
 
 // 15.5, 15.6 of one alone: it asks, stands and leads at once
